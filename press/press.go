@@ -32,27 +32,20 @@ func Pack(s string) (string, api.Errno) {
 }
 
 // Unpack a text.
-func Unpack(s string, most int) (t string, e api.Errno) {
-	defer func() {
-		if r := recover(); r != nil {
-			wrong, gaveUp := r.(api.Errno)
-			if !gaveUp {
-				panic(r) // a fault of the program, not of the text
-			}
-			t, e = "", wrong
-		}
-	}()
+func Unpack(s string, most int) (string, api.Errno) {
 	if most < 0 || most > api.MaxText {
 		return "", api.ErrRange
 	}
-	told, size, wrong := wire.ReadNumber(s)
-	if wrong != api.OK {
+	told, size, e := wire.ReadNumber(s)
+	if e != api.OK {
 		return "", api.ErrForm
 	}
 	if told > uint64(most) {
 		return "", api.ErrMany
 	}
 	u := unpacker{rest: s[size:], told: int(told)}
-	u.all()
+	if e := u.all(); e != api.OK {
+		return "", e
+	}
 	return string(u.made), api.OK
 }

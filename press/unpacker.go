@@ -9,13 +9,24 @@ type unpacker struct {
 	made []byte
 }
 
-func (u *unpacker) all() {
+// all elements, and the error with which one of them gave up. Any other panic goes on: it would be a fault of the program, and is not to look like one of the text.
+func (u *unpacker) all() (e api.Errno) {
+	defer func() {
+		if r := recover(); r != nil {
+			wrong, gaveUp := r.(api.Errno)
+			if !gaveUp {
+				panic(r)
+			}
+			e = wrong
+		}
+	}()
 	for len(u.rest) > 0 {
 		u.element()
 	}
 	if len(u.made) < u.told {
 		panic(api.ErrForm)
 	}
+	return api.OK
 }
 
 func (u *unpacker) element() {
